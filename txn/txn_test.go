@@ -1037,7 +1037,7 @@ func crashed(t *testing.T, d *disk.Disk, capacity int) []*disk.Disk {
 // P14.6: what one commits is there whole, or not at all, wherever the power goes; what was answered for is there.
 func TestCuts(t *testing.T) {
 	const before, after = "a1=o b2=o c2=o", "a3=x c2=o d3=y"
-	for _, size := range []int{1, 3000} {
+	for _, size := range []int{1, 3000, 9000} {
 		for cut := range 12 {
 			w := newWorld(t, room)
 			w.writes("a=o", "b=o c=o")
