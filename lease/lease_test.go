@@ -734,7 +734,7 @@ func walk(t *testing.T, seed []byte) {
 func TestWalk(t *testing.T) {
 	t.Parallel()
 	r := rand.New(rand.NewPCG(19, 2))
-	for range 400 {
+	for range 600 {
 		seed := make([]byte, 800)
 		for i := range seed {
 			seed[i] = byte(r.Uint32())
